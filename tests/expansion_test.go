@@ -150,12 +150,22 @@ func (w *expansionAnotherWay) put(m impl.Macro, list []impl.Token) ([]impl.Token
 	for i := range put {
 		put[i].Hidden = namesTogether(put[i].Hidden, hidden, []string{m.Name})
 		put[i].Spaced = i == 0 && list[0].Spaced || i > 0 && put[i].Spaced
-		ok = ok && len(put[i].Hidden) <= impl.MaxTokens
 	}
-	if !ok {
+	if !ok || mostHidden(raw...) > impl.MaxTokens || mostHidden(ready...) > impl.MaxTokens {
 		panic(faultOf(impl.ExpandPaste))
 	}
 	return put, rest
+}
+
+// mostHidden returns how many names are in Hidden of a token at most.
+func mostHidden(lists ...[]impl.Token) int {
+	most := 0
+	for _, list := range lists {
+		for _, token := range list {
+			most = max(most, len(token.Hidden))
+		}
+	}
+	return most
 }
 
 // checkExpanded compares Expand with the other way, and returns the fault.
@@ -166,8 +176,12 @@ func checkExpanded(t *testing.T, table []impl.Macro, list []impl.Token) int {
 	if fault != wantFault || !sameTokens(got, want) {
 		t.Fatalf("Expand(%v, %v) = %v, %v, want %v, %v", table, list, got, fault, want, wantFault)
 	}
-	if !impl.TokensValid(got) {
-		t.Fatalf("Expand(%v, %v) = %v, which are not valid", table, list, got)
+	for _, token := range got {
+		// That there are too many names in Hidden is the one reason for which a token may not be valid.
+		isFull := len(token.Hidden) > impl.MaxTokens && slices.Equal(token.Hidden, namesTogether(token.Hidden))
+		if !impl.TokenValid(token) && !(isFull && impl.TokenValid(withNames(token))) {
+			t.Fatalf("Expand(%v, %v) has the token %+v, which is not valid", table, list, token)
+		}
 	}
 	return fault
 }
@@ -682,24 +696,110 @@ func TestExpandHiddenOfFunction(t *testing.T) {
 	}
 }
 
-// A token has room for exactly MaxTokens names; what would have more is not possible to put in.
+// besidesFull returns the tokens of a line, one of which has MaxTokens names in Hidden.
+func besidesFull(t *testing.T, line string, at int) []impl.Token {
+	t.Helper()
+	list := besides(t, line)
+	list[at].Hidden = manyNames(impl.MaxTokens)
+	return list
+}
+
+// fullNames returns MaxTokens names, and further ones, ascending.
+func fullNames(names ...string) []string {
+	return namesTogether(manyNames(impl.MaxTokens), names)
+}
+
+// Promises 8 and 64: how many names are in Hidden of a token that is put in is no reason for a fault.
 func TestExpandHiddenMany(t *testing.T) {
-	table := tableOf(t, "a 1", "f(x) x", "k(x) 2", "n", "s(x) #x")
-	a, f, n, one := beside(aName, "a"), beside(aName, "f"), beside(aName, "n"), beside(aNumber, "1")
-	open, end := beside(aMark, "("), beside(aMark, ")")
-	full, roomy := manyNames(impl.MaxTokens), manyNames(impl.MaxTokens-1)
-	wantExpanded(t, table, []impl.Token{withNames(a, append([]string{"a"}, roomy...)...)}, []impl.Token{withNames(a, append([]string{"a"}, roomy...)...)})
-	wantExpanded(t, table, []impl.Token{withNames(a, roomy...)}, []impl.Token{withNames(one, append([]string{"a"}, roomy...)...)})
-	wantFault(t, table, []impl.Token{withNames(a, full...)}, impl.ExpandPaste)
-	// Where there are no tokens, there is nothing without room.
-	wantExpanded(t, table, []impl.Token{withNames(n, full...)}, nil)
-	wantExpanded(t, table, []impl.Token{withNames(f, full...), open, one, end}, []impl.Token{withNames(one, "f")})
-	wantFault(t, table, []impl.Token{withNames(f, full...), open, one, withNames(end, full...)}, impl.ExpandPaste)
-	wantExpanded(t, table, []impl.Token{f, open, withNames(one, roomy...), end}, []impl.Token{withNames(one, append([]string{"f"}, roomy...)...)})
-	wantFault(t, table, []impl.Token{f, open, withNames(one, full...), end}, impl.ExpandPaste)
-	wantFault(t, table, []impl.Token{f, open, one, withNames(one, full...), end}, impl.ExpandPaste)
-	wantExpanded(t, table, []impl.Token{beside(aName, "k"), open, withNames(one, full...), end}, []impl.Token{withNames(beside(aNumber, "2"), "k")})
-	wantExpanded(t, table, []impl.Token{beside(aName, "s"), open, withNames(one, full...), end}, []impl.Token{withNames(beside(aText, `"1"`), "s")})
+	table := tableOf(t, "a b", "b 1", "c d 2", "e() 7", "f(x) x", "g f", "k(x) 2", "n", "s(x) #x", "u(x,y) x##y")
+	one, two := beside(aNumber, "1"), beside(aNumber, "2")
+	wantExpanded(t, table, besidesFull(t, "a", 0), []impl.Token{withNames(one, fullNames("a", "b")...)})
+	wantExpanded(t, table, besidesFull(t, "b", 0), []impl.Token{withNames(one, fullNames("b")...)})
+	wantExpanded(t, table, besidesFull(t, "c", 0), []impl.Token{withNames(beside(aName, "d"), fullNames("c")...), withNames(apart(aNumber, "2"), fullNames("c")...)})
+	wantExpanded(t, table, besidesFull(t, "n", 0), nil)
+	wantExpanded(t, table, besidesFull(t, "f(1)", 2), []impl.Token{withNames(one, fullNames("f")...)})
+	wantExpanded(t, table, besidesFull(t, "k(1)", 2), []impl.Token{withNames(two, "k")})
+	wantExpanded(t, table, besidesFull(t, "s(1)", 2), []impl.Token{withNames(beside(aText, `"1"`), "s")})
+	wantExpanded(t, table, besidesFull(t, "f(n)", 2), nil)
+	for _, at := range []int{0, 1, 3} {
+		wantExpanded(t, table, besidesFull(t, "f(1)", at), []impl.Token{withNames(one, "f")})
+	}
+	// With both of the same names, they are in what is between the parentheses, and in what is pasted, too.
+	list := besidesFull(t, "k(1)", 0)
+	list[3].Hidden = list[0].Hidden
+	wantExpanded(t, table, list, []impl.Token{withNames(two, fullNames("k")...)})
+	list = besidesFull(t, "u(1,2)", 2)
+	list[4].Hidden = list[2].Hidden
+	wantExpanded(t, table, list, []impl.Token{withNames(beside(aNumber, "12"), fullNames("u")...)})
+	// A name that is there already takes no further room, and with its own name a token is done.
+	names := append([]string{"b"}, manyNames(impl.MaxTokens-1)...)
+	wantExpanded(t, table, []impl.Token{withNames(beside(aName, "a"), names...)}, []impl.Token{withNames(beside(aName, "b"), namesTogether(names, []string{"a"})...)})
+	wantExpanded(t, table, []impl.Token{withNames(beside(aName, "b"), names...)}, []impl.Token{withNames(beside(aName, "b"), names...)})
+}
+
+// A token with more than MaxTokens names in Hidden is a macro, a parenthesis, or what is behind them, as any other one.
+func TestExpandUsesOfManyHidden(t *testing.T) {
+	table := tableOf(t, "c d e", "d e() x", "e() 7", "f(x) [x]", "g f", "h f() x", "q g g", "v f(", "w )")
+	full := func(token impl.Token, names ...string) impl.Token { return withNames(token, fullNames(names...)...) }
+	open, end := beside(aMark, "["), beside(aMark, "]")
+	bracketed := []impl.Token{withNames(open, "f"), withNames(beside(aNumber, "1"), "f"), withNames(end, "f")}
+	wantExpanded(t, table, besidesFull(t, "g(1)", 0), bracketed)
+	wantExpanded(t, table, besidesFull(t, "v 1)", 0), bracketed)
+	wantExpanded(t, table, besidesFull(t, "q(1)", 0), append([]impl.Token{full(beside(aName, "f"), "g", "q")}, withNames(apart(aMark, "["), "f"), bracketed[1], bracketed[2]))
+	wantExpanded(t, table, besidesFull(t, "d", 0), []impl.Token{full(beside(aNumber, "7"), "d", "e"), full(apart(aName, "x"), "d")})
+	wantExpanded(t, table, besidesFull(t, "c", 0), []impl.Token{full(beside(aNumber, "7"), "c", "d", "e"), full(apart(aName, "x"), "c", "d"), full(apart(aName, "e"), "c")})
+	wantExpanded(t, table, besidesFull(t, "h", 0), []impl.Token{full(open, "f", "h"), full(end, "f", "h"), full(apart(aName, "x"), "h")})
+	// What would be in place of a macro behind the name does not count.
+	wantExpanded(t, table, besidesFull(t, "g w", 0), []impl.Token{full(beside(aName, "f"), "g"), withNames(beside(aMark, ")"), "w")})
+	wantFault(t, table, besidesFull(t, "g(1", 0), impl.ExpandArgs)
+	wantFault(t, table, besidesFull(t, "g(1,2)", 0), impl.ExpandArgs)
+	wantFault(t, table, besidesFull(t, "g(1 w", 0), impl.ExpandArgs)
+	wantFault(t, table, besidesFull(t, "v", 0), impl.ExpandArgs)
+	wantFault(t, table, besidesFull(t, "v 1,2)", 0), impl.ExpandArgs)
+}
+
+// An argument with a token that has more than MaxTokens names is not possible to put in, raw or ready, wherever the body has it.
+func TestExpandArgumentsOfManyHidden(t *testing.T) {
+	table := tableOf(t, "a b", "e() 7", "f(x) x", "h f(b)", "i f(n)", "j f(f(,))", "k(x) 2", "n", "s(x) #x", "z h")
+	for _, line := range []string{"h", "i", "z"} {
+		wantFault(t, table, besidesFull(t, line, 0), impl.ExpandPaste)
+	}
+	for _, line := range []string{"f(a)", "k(a)", "s(a)"} {
+		wantFault(t, table, besidesFull(t, line, 2), impl.ExpandPaste)
+		wantExpanded(t, table, besidesFull(t, line, 2)[2:3], []impl.Token{withNames(beside(aName, "b"), fullNames("a")...)})
+	}
+	wantFault(t, table, besidesFull(t, "f(f(1))", 4), impl.ExpandPaste)
+	wantFault(t, table, besidesFull(t, "k(k(a))", 4), impl.ExpandPaste)
+	wantExpanded(t, table, besidesFull(t, "k(k(1))", 4), []impl.Token{withNames(beside(aNumber, "2"), "k")})
+	wantExpanded(t, table, besidesFull(t, "k(n)", 2), []impl.Token{withNames(beside(aNumber, "2"), "k")})
+	// Faults in the argument itself come first, and so does that of a ) that is missing, or of arguments that do not fit.
+	wantFault(t, table, besidesFull(t, "j", 0), impl.ExpandArgs)
+	wantFault(t, table, besidesFull(t, "f(a,1)", 2), impl.ExpandArgs)
+	wantFault(t, table, besidesFull(t, "f(a", 2), impl.ExpandArgs)
+	wantFault(t, table, besidesFull(t, "e(a)", 2), impl.ExpandArgs)
+	wantFault(t, table, append(besidesFull(t, "f(a)", 2), besides(t, "f(,)")...), impl.ExpandPaste)
+	wantFault(t, table, append(besides(t, "f(,)"), besidesFull(t, "f(a)", 2)...), impl.ExpandArgs)
+}
+
+// As many tokens and macros as there may be, all with as many names as there may be.
+func TestExpandMostHidden(t *testing.T) {
+	var lines, names []string
+	for i := range impl.MaxMacros {
+		names = append(names, string([]byte{'a' + byte(i)}))
+		lines = append(lines, names[i]+" "+string([]byte{'a' + byte(i) + 1}))
+	}
+	table := tableOf(t, lines...)
+	j, last := withNames(beside(aName, "j"), manyNames(impl.MaxTokens)...), withNames(beside(aName, "k"), fullNames("j")...)
+	wantExpanded(t, table, manyTokens(j, impl.MaxTokens), manyTokens(last, impl.MaxTokens))
+	a := withNames(beside(aName, "a"), manyNames(impl.MaxTokens)...)
+	last = withNames(beside(aName, "k"), fullNames(names...)...)
+	wantExpanded(t, table, manyTokens(a, 10), manyTokens(last, 10))
+	wantFault(t, table, manyTokens(a, 11), impl.ExpandLong)
+	table = tableOf(t, "d 1 1", "n")
+	d := besidesFull(t, "d", 0)
+	wantExpanded(t, table, append(d, manyTokens(beside(aName, "n"), 58)...), []impl.Token{withNames(beside(aNumber, "1"), fullNames("d")...), withNames(apart(aNumber, "1"), fullNames("d")...)})
+	wantFault(t, table, append(d, manyTokens(beside(aName, "n"), 59)...), impl.ExpandLong)
+	wantFault(t, table, append(manyTokens(beside(aName, "x"), 59), d...), impl.ExpandLong)
 }
 
 // timesLine returns a line with words, each a number of times.
@@ -1043,6 +1143,29 @@ func TestExpandAnotherWayMore(t *testing.T) {
 		if count < 300 {
 			t.Errorf("the fault %d comes %d times", fault, count)
 		}
+	}
+}
+
+// The same with tokens that have nearly as many Hidden names as they may have, or as many.
+func TestExpandAnotherWayManyHidden(t *testing.T) {
+	c := choices{seed: 3}
+	body := []string{"x", "x", "y", "a", "b", "c", "e()", "f(", "f(x)", "g(x,", "h", "(", ")", ")", ",", "n", "p(y)", " ## ", "#x ", "1", "+"}
+	words := []string{"a", "b", "c", "e()", "f(", "f(1)", "f()", "g(a,", "p(", "(", ")", ")", "n", "x", "1", "f", "g"}
+	faults, full := make([]int, 4), 0
+	for range 4000 {
+		table, list := c.table(body), c.tokens(words)
+		for i := range list {
+			if c.below(2) == 0 {
+				list[i].Hidden = manyNames(impl.MaxTokens - c.below(3))
+			}
+		}
+		faults[checkExpanded(t, table, list)]++
+		if got, _ := impl.Expand(table, list); mostHidden(got) > impl.MaxTokens {
+			full++
+		}
+	}
+	if slices.Min(faults) < 50 || full < 150 {
+		t.Errorf("the faults come as often as %v, and tokens with more names than valid ones %d times", faults, full)
 	}
 }
 
